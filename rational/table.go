@@ -7,18 +7,19 @@ import (
 	"binnacle/big"
 )
 
-// table is a matrix of whole numbers, row by row, that is eliminated without fractions, as Bareiss does it: its numbers are always determinants of pieces of what it was at first, so that each division by the pivot ahead goes without a rest.
+// table is a matrix of whole numbers, row by row, that is eliminated without fractions, as Bareiss does it: its numbers are always determinants of pieces of what it was at first, so that each division by a pivot goes without a rest. A row that a pivot has nothing to clear in waits with that step: it would only grow by it.
 type table struct {
 	rows, cols int
 	at         []big.Int
 	scales     []big.Int // by what each row of the grid was multiplied, all above 0
-	last       big.Int   // the last pivot, 1 ahead of the first one
+	lasts      []big.Int // 1, and the pivots
+	level      []int     // at which of these each row is
 	turned     bool      // whether rows were exchanged an odd number of times
 }
 
 // cleared is a grid whose rows are multiplied by the least numbers that leave nothing below a stroke. Neither ranks nor solutions nor the signs of determinants change by that.
 func (g grid) cleared() *table {
-	out := &table{rows: g.rows, cols: g.cols, last: one()}
+	out := &table{rows: g.rows, cols: g.cols, lasts: []big.Int{one()}, level: make([]int, g.rows)}
 	for i := range g.rows {
 		row := g.at[i*g.cols : (i+1)*g.cols]
 		scale := one()
@@ -70,28 +71,45 @@ func (t *table) exchange(i, k int) {
 	for j := range upper {
 		upper[j], lower[j] = lower[j], upper[j]
 	}
+	t.level[i], t.level[k] = t.level[k], t.level[i]
 	t.turned = !t.turned
 }
 
 // clear makes noughts of a pivot's column in the rows from a place on, but for its own row. What stands ahead of that column isn't looked at any more, and stays.
 func (t *table) clear(row, col, from int) {
-	pivot := t.row(row)[col]
+	by := t.row(row)[col:]
+	t.lift(row, by)
 	for i := from; i < t.rows; i++ {
-		if i != row {
-			t.clearRow(t.row(i)[col:], t.row(row)[col:])
+		if other := t.row(i)[col:]; i != row && other[0].Sign() != 0 {
+			clearBy(other, by, t.lasts[t.level[i]])
+			t.level[i] = len(t.lasts)
 		}
 	}
-	t.last = pivot
+	t.level[row] = len(t.lasts)
+	t.lasts = append(t.lasts, by[0])
 }
 
-// clearRow does it in one row; both begin at the pivot's column.
-func (t *table) clearRow(row, by []big.Int) {
+// lift makes up for the steps that a row has waited with.
+func (t *table) lift(row int, numbers []big.Int) {
+	if t.level[row] == len(t.lasts)-1 {
+		return
+	}
+	from, to := t.lasts[t.level[row]], t.last()
+	for j := range numbers {
+		numbers[j] = numbers[j].Times(to).Exact(from)
+	}
+}
+
+// clearBy clears the first number of a row by another one's, with the division that the row's level asks for.
+func clearBy(row, by []big.Int, last big.Int) {
 	pivot, factor := by[0], row[0]
 	row[0] = big.Int{}
 	for j := 1; j < len(row); j++ {
-		row[j] = pivot.Times(row[j]).Minus(factor.Times(by[j])).Exact(t.last)
+		row[j] = pivot.Times(row[j]).Minus(factor.Times(by[j])).Exact(last)
 	}
 }
+
+func (t *table) last() big.Int { return t.lasts[len(t.lasts)-1] }
 
 // rank clears the table downward.
 func (t *table) rank() int {
@@ -126,16 +144,16 @@ func (t *table) det() big.Int {
 	case !t.full(false):
 		return big.Int{}
 	case t.turned:
-		return t.last.Neg()
+		return t.last().Neg()
 	}
-	return t.last
+	return t.last()
 }
 
-// solve is what the columns behind the first ones, as many as there are rows, come to: cleared upward, too, they are the solutions times the last pivot.
+// solve is what the columns behind the first ones, as many as there are rows, come to: cleared upward, too, they are the solutions times the pivot that each row is at.
 func (t *table) solve() grid {
 	require(t.full(true), api.ErrSingular)
 	return filled(t.rows, t.cols-t.rows, func(i, j int) big.Rat {
-		return big.Ratio(t.row(i)[t.rows+j], t.last)
+		return big.Ratio(t.row(i)[t.rows+j], t.lasts[t.level[i]])
 	})
 }
 
