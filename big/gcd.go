@@ -87,14 +87,13 @@ func foretold(x, y nat) run {
 // taken are x and y behind the steps, two or more, in the spare memory. Both are below y then: so its words are all that is reckoned.
 func (r run) taken(x, y nat, spare [2]nat) (nat, nat) {
 	n := len(y)
-	x = x[:n]
 	if r.odd {
 		return difference(spare[0][:n], y, x, r.b, r.a), difference(spare[1][:n], x, y, r.c, r.d)
 	}
 	return difference(spare[0][:n], x, y, r.a, r.b), difference(spare[1][:n], y, x, r.d, r.c)
 }
 
-// difference is the lowest words of x * a - y * b, as many as z, x and y have.
+// difference is the lowest words of x * a - y * b, as many as z has; x and y have no fewer.
 func difference(z, x, y nat, a, b uint64) nat {
 	var carryX, carryY, borrow, c uint64
 	x, y = x[:len(z)], y[:len(z)]

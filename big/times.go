@@ -14,7 +14,7 @@ func (x nat) times(y nat) nat {
 	return trimmed(out)
 }
 
-// product sets z, which has as many words as x and y have in all, to x * y. The last words of x and y may be 0 here.
+// product sets z, which has as many words as x and y have in all, each of them 0, to x * y. The last words of x and y may be 0 here.
 func product(z, x, y nat) {
 	if len(x) < len(y) {
 		x, y = y, x
@@ -32,7 +32,6 @@ func product(z, x, y nat) {
 
 // byWords is the product as on paper.
 func byWords(z, x, y nat) {
-	clear(z)
 	for i, w := range y {
 		if w != 0 {
 			z[i+len(x)] = addTimes(z[i:i+len(x)], x, w)
@@ -58,7 +57,6 @@ func addTimes(z, x nat, w uint64) uint64 {
 // byPieces multiplies a long x in two pieces by a short y.
 func byPieces(z, x, y nat, half int) {
 	product(z[:half+len(y)], x[:half], y)
-	clear(z[half+len(y):])
 	high := make(nat, len(x)-half+len(y))
 	product(high, x[half:], y)
 	addInto(z[half:], high)

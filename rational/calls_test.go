@@ -250,11 +250,11 @@ func TestByTheWords(t *testing.T) {
 				t.Errorf("%s: %v", c.name, count)
 			}
 		case "Sign", "SignMat":
-			if signs[api.SignPositive] < 20 || signs[api.SignSemi] < 20 || signs[api.SignOther] < 20 {
+			if signs[api.SignPositive] < 10 || signs[api.SignSemi] < 10 || signs[api.SignOther] < 10 {
 				t.Errorf("%s: %v", c.name, signs)
 			}
 		case "AtMost", "AtMostMat":
-			if truths[true] < 20 || truths[false] < 20 {
+			if truths[true] < 10 || truths[false] < 10 {
 				t.Errorf("%s: %v", c.name, truths)
 			}
 		case "Near", "NearMat":
