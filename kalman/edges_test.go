@@ -362,6 +362,7 @@ func TestStepsThatGoOver(t *testing.T) {
 		{"Update", "k h", withoutA[0]},
 		{"Update", "B", withoutA[1]},
 		{"Update", "B A", question{s: low, h: row, r: r, z: 0}},
+		{"Update", "B A + k r k", question{s: one(0, most), h: list(0x1.cd11f17a7d336p-500), r: 0x1.9f34d07a8e7bbp+79, z: 0}},
 		{"Short", "k v", question{s: lower, h: lowerRow, r: lowerR, z: 0}},
 	}
 	for _, c := range cases {
