@@ -64,7 +64,8 @@ func plus(step string, a, b float64) float64 { return finite(step, a+b) }
 
 func less(step string, a, b float64) float64 { return finite(step, a-b) }
 
-func times(step string, a, b float64) float64 { return finite(step, a*b) }
+// times turns the product into a float64, so that no machine fuses it with a sum.
+func times(step string, a, b float64) float64 { return finite(step, float64(a*b)) }
 
 func over(step string, a, b float64) float64 { return finite(step, a/b) }
 
