@@ -1,4 +1,4 @@
-// Package big holds whole numbers and fractions without end: what package rational reckons with.
+// Package big holds whole numbers and fractions without end: what package exact reckons with.
 package big
 
 import (

@@ -2,7 +2,7 @@ package rational
 
 import (
 	"binnacle/api"
-	"binnacle/big"
+	"binnacle/exact"
 )
 
 // OfMat is a matrix, exactly.
@@ -14,9 +14,11 @@ func OfMat(m api.Mat) (api.FracMat, api.Errno) {
 func NearMat(m api.FracMat) (api.Mat, api.Errno) {
 	return answered(func() api.Mat {
 		g := readMat(m)
-		out := api.Mat{Rows: g.rows, Cols: g.cols, At: make([]float64, len(g.at))}
-		for i, f := range g.at {
-			out.At[i] = nearest(f)
+		out := api.Mat{Rows: m.Rows, Cols: m.Cols, At: make([]float64, 0, len(m.At))}
+		for i := range m.Rows {
+			for j := range m.Cols {
+				out.At = append(out.At, nearest(g.At(i, j)))
+			}
 		}
 		return out
 	})
@@ -25,8 +27,8 @@ func NearMat(m api.FracMat) (api.Mat, api.Errno) {
 // Unit is the unit matrix.
 func Unit(n int) (api.FracMat, api.Errno) {
 	return answered(func() api.FracMat {
-		require(within(n), api.ErrRange)
-		return writtenMat(unit(n))
+		require(n >= 0 && n <= api.MaxDim, api.ErrRange)
+		return writtenMat(exact.Unit(n))
 	})
 }
 
@@ -44,19 +46,19 @@ func Turn(m api.FracMat) (api.FracMat, api.Errno) {
 
 // AddMat is a sum.
 func AddMat(a api.FracMat, b api.FracMat) (api.FracMat, api.Errno) {
-	return placeByPlace(a, b, big.Rat.Plus)
+	return placeByPlace(a, b, exact.Grid.Plus)
 }
 
 // SubMat is a difference.
 func SubMat(a api.FracMat, b api.FracMat) (api.FracMat, api.Errno) {
-	return placeByPlace(a, b, big.Rat.Minus)
+	return placeByPlace(a, b, exact.Grid.Minus)
 }
 
-func placeByPlace(a, b api.FracMat, how func(x, y big.Rat) big.Rat) (api.FracMat, api.Errno) {
+func placeByPlace(a, b api.FracMat, how func(x, y exact.Grid) exact.Grid) (api.FracMat, api.Errno) {
 	return answered(func() api.FracMat {
 		x, y := readMat(a), readMat(b)
-		require(x.shapedAs(y), api.ErrShape)
-		return writtenMat(x.with(y, how))
+		require(x.IsShapedAs(y), api.ErrShape)
+		return writtenMat(how(x, y))
 	})
 }
 
@@ -64,8 +66,8 @@ func placeByPlace(a, b api.FracMat, how func(x, y big.Rat) big.Rat) (api.FracMat
 func MulMat(a api.FracMat, b api.FracMat) (api.FracMat, api.Errno) {
 	return answered(func() api.FracMat {
 		x, y := readMat(a), readMat(b)
-		require(x.cols == y.rows, api.ErrShape)
-		return writtenMat(x.times(y))
+		require(x.Cols() == y.Rows(), api.ErrShape)
+		return writtenMat(x.Times(y))
 	})
 }
 
@@ -73,7 +75,7 @@ func MulMat(a api.FracMat, b api.FracMat) (api.FracMat, api.Errno) {
 func Scale(f api.Frac, a api.FracMat) (api.FracMat, api.Errno) {
 	return answered(func() api.FracMat {
 		factor, m := read(f), readMat(a)
-		return writtenMat(m.each(factor.Times))
+		return writtenMat(m.Each(factor.Times))
 	})
 }
 
@@ -86,32 +88,29 @@ func Solve(a api.FracMat, b api.FracMat) (api.FracMat, api.Errno) {
 func Inverse(a api.FracMat) (api.FracMat, api.Errno) {
 	return answered(func() api.FracMat {
 		m := readMat(a)
-		return writtenMat(solved(m, unit(m.rows)))
+		return writtenMat(solved(m, exact.Unit(m.Rows())))
 	})
 }
 
-func solved(a, b grid) grid {
-	require(a.square() && a.rows == b.rows, api.ErrShape)
-	return a.beside(b).cleared().solve()
+func solved(a, b exact.Grid) exact.Grid {
+	require(a.IsSquare() && a.Rows() == b.Rows(), api.ErrShape)
+	x, is := a.Solve(b)
+	require(is, api.ErrSingular)
+	return x
 }
 
 // Det is a matrix's determinant.
 func Det(a api.FracMat) (api.Frac, api.Errno) {
 	return answered(func() api.Frac {
 		m := readMat(a)
-		require(m.square(), api.ErrShape)
-		t := m.cleared()
-		below := one()
-		for _, scale := range t.scales {
-			below = below.Times(scale)
-		}
-		return written(big.Ratio(t.det(), below))
+		require(m.IsSquare(), api.ErrShape)
+		return written(m.Det())
 	})
 }
 
 // Rank is a matrix's rank.
 func Rank(a api.FracMat) (int, api.Errno) {
-	return answered(func() int { return readMat(a).cleared().rank() })
+	return answered(func() int { return readMat(a).Rank() })
 }
 
 // Sign is how a symmetric matrix stands to 0.
@@ -124,10 +123,10 @@ func SignMat(m api.Mat) (api.Sign, api.Errno) {
 	return answered(func() api.Sign { return signOf(exactlyMat(m)) })
 }
 
-func signOf(g grid) api.Sign {
-	require(g.square(), api.ErrShape)
-	require(g.symmetric(), api.ErrFracSym)
-	return g.cleared().sign()
+func signOf(g exact.Grid) api.Sign {
+	require(g.IsSquare(), api.ErrShape)
+	require(g.IsSymmetric(), api.ErrFracSym)
+	return g.Sign()
 }
 
 // AtMost tells whether A is at most B in the Loewner order.
@@ -140,8 +139,8 @@ func AtMostMat(a api.Mat, b api.Mat) (bool, api.Errno) {
 	return answered(func() bool { return atMost(exactlyMat(a), exactlyMat(b)) })
 }
 
-func atMost(a, b grid) bool {
-	require(a.square() && a.shapedAs(b), api.ErrShape)
-	require(a.symmetric() && b.symmetric(), api.ErrFracSym)
-	return b.with(a, big.Rat.Minus).cleared().sign() != api.SignOther
+func atMost(a, b exact.Grid) bool {
+	require(a.IsSquare() && a.IsShapedAs(b), api.ErrShape)
+	require(a.IsSymmetric() && b.IsSymmetric(), api.ErrFracSym)
+	return b.Minus(a).Sign() != api.SignOther
 }

@@ -1,4 +1,4 @@
-package rational
+package exact
 
 import (
 	"iter"
@@ -18,7 +18,7 @@ type table struct {
 }
 
 // cleared is a grid whose rows are multiplied by the least numbers that leave nothing below a stroke. Neither ranks nor solutions nor the signs of determinants change by that.
-func (g grid) cleared() *table {
+func (g Grid) cleared() *table {
 	out := &table{rows: g.rows, cols: g.cols, lasts: []big.Int{one()}, level: make([]int, g.rows)}
 	for i := range g.rows {
 		row := g.at[i*g.cols : (i+1)*g.cols]
@@ -149,12 +149,14 @@ func (t *table) det() big.Int {
 	return t.last()
 }
 
-// solve is what the columns behind the first ones, as many as there are rows, come to: cleared upward, too, they are the solutions times the pivot that each row is at.
-func (t *table) solve() grid {
-	require(t.full(true), api.ErrSingular)
-	return filled(t.rows, t.cols-t.rows, func(i, j int) big.Rat {
+// solve is what the columns behind the first ones, as many as there are rows, come to: cleared upward, too, they are the solutions times the pivot that each row is at. It is false, if the first ones have no inverse.
+func (t *table) solve() (Grid, bool) {
+	if !t.full(true) {
+		return Grid{}, false
+	}
+	return Filled(t.rows, t.cols-t.rows, func(i, j int) big.Rat {
 		return big.Ratio(t.row(i)[t.rows+j], t.lasts[t.level[i]])
-	})
+	}), true
 }
 
 // diagonal goes over the diagonal's places with the signs of their numbers, as they are when the loop has done with those ahead.

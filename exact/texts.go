@@ -1,21 +1,27 @@
-package rational
+// Package exact holds what the exact layers share: numbers and texts as fractions without end, and matrices of such fractions.
+package exact
 
 import (
+	"math"
 	"strings"
 
+	"binnacle/anatomy"
 	"binnacle/api"
 	"binnacle/big"
 )
 
-// read is the fraction of a text, which must be one.
-func read(f api.Frac) big.Rat {
-	out, is := fractionOf(f)
-	require(is, api.ErrFrac)
-	return out
+// Of is a number, exactly; false, if it isn't finite.
+func Of(x float64) (big.Rat, bool) {
+	p, why := anatomy.Parts(x)
+	if why != api.OK {
+		return big.Rat{}, false
+	}
+	above := big.Whole(p.Neg, p.Mant).Times(big.Power(max(p.Exp, 0)))
+	return big.Ratio(above, big.Power(max(-p.Exp, 0))), true
 }
 
-// fractionOf is the fraction of a text; false, if the text isn't one in its one way to be written.
-func fractionOf(f api.Frac) (big.Rat, bool) {
+// Read is the fraction of a text; false, if the text isn't one in its one way to be written.
+func Read(f api.Frac) (big.Rat, bool) {
 	upper, lower, parted := strings.Cut(string(f), "/")
 	above, is := wholeRead(upper)
 	if !is {
@@ -43,10 +49,17 @@ func wholeRead(text string) (big.Int, bool) {
 	return n, is && n.Bits() <= api.MaxBits
 }
 
-// written is a fraction's one text; it must not be too great.
-func written(f big.Rat) api.Frac {
-	f, fits := f.Lowest(api.MaxBits)
-	require(fits, api.ErrLong)
+// Lowest is a fraction in lowest terms.
+func Lowest(f big.Rat) big.Rat {
+	out, _ := f.Lowest(math.MaxInt)
+	return out
+}
+
+// Fitted is a fraction in lowest terms; false, if it is too great for a text.
+func Fitted(f big.Rat) (big.Rat, bool) { return f.Lowest(api.MaxBits) }
+
+// Text is the one text of a fraction that is in lowest terms.
+func Text(f big.Rat) api.Frac {
 	if f.Below().Bits() == 1 {
 		return api.Frac(f.Above().Text())
 	}
